@@ -3,6 +3,7 @@ package duel
 
 import (
 	"duel/api"
+	"duel/proofs"
 	"duel/qbf"
 )
 
@@ -38,7 +39,15 @@ func (f *Formula) Blocks() [][]int {
 }
 
 // Check tells what a text proves (P5).
-func (f *Formula) Check(proof string) (int, api.Errno, int) { return 0, api.OK, 0 }
+func (f *Formula) Check(proof string) (int, api.Errno, int) {
+	// A formula that was not loaded is as one without lines.
+	formula := qbf.Formula{}
+	if f != nil {
+		formula = f.read
+	}
+	read, errno, line := proofs.Read(formula, proof)
+	return read.Kind, errno, line
+}
 
 // Solve finds whether the formula is true (P6).
 func (f *Formula) Solve(budget int, lemmas int) (Verdict, api.Errno) { return Verdict{}, api.OK }

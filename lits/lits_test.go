@@ -37,3 +37,73 @@ func TestHasVar(t *testing.T) {
 		}
 	}
 }
+
+// all is every literal, none what is no literal.
+var all = []int{-8, -7, -6, -5, -4, -3, -2, -1, 1, 2, 3, 4, 5, 6, 7, 8}
+var none = []int{0, 9, -9, 64, -64, math.MaxInt, math.MinInt}
+
+func TestHas(t *testing.T) {
+	for _, l := range all {
+		for _, m := range all {
+			if (Set{}).With(l).Has(m) != (l == m) {
+				t.Errorf("Has(%d) of the set of %d", m, l)
+			}
+		}
+	}
+	for _, n := range none {
+		if (Set{Pos: -1, Neg: -1}).Has(n) {
+			t.Errorf("Has(%d)", n)
+		}
+	}
+}
+
+func TestWithoutVar(t *testing.T) {
+	s := Set{}.With(1).With(-1).With(-3).With(8)
+	for v, want := range map[int]Set{
+		1: Set{}.With(-3).With(8),
+		2: s,
+		3: Set{}.With(1).With(-1).With(8),
+		8: Set{}.With(1).With(-1).With(-3),
+	} {
+		if s.WithoutVar(v) != want {
+			t.Errorf("WithoutVar(%d) of %v = %v, want %v", v, s, s.WithoutVar(v), want)
+		}
+	}
+	for _, n := range append([]int{-1, -3}, none...) {
+		if s.WithoutVar(n) != s {
+			t.Errorf("WithoutVar(%d) changes %v", n, s)
+		}
+	}
+}
+
+func TestTwoSets(t *testing.T) {
+	for _, l := range all {
+		for _, m := range all {
+			first, second := Set{}.With(l), Set{}.With(m)
+			both := first.Union(second)
+			if both != (Set{}).With(l).With(m) {
+				t.Errorf("Union of %d and %d = %v", l, m, both)
+			}
+			if first.Meets(second) != (l == m) || both.Meets(second) != true {
+				t.Errorf("Meets of %d and %d", l, m)
+			}
+			if both.Clashes() != (l == -m) {
+				t.Errorf("Clashes of %d and %d", l, m)
+			}
+		}
+		if (Set{}).With(l).Empty() || (Set{}).Meets(Set{}.With(l)) {
+			t.Errorf("Empty or Meets of %d", l)
+		}
+	}
+	if !(Set{}).Empty() || (Set{}).Clashes() || (Set{}).Meets(Set{}) {
+		t.Errorf("the set without literals")
+	}
+}
+
+func TestVarOf(t *testing.T) {
+	for _, l := range all {
+		if v := VarOf(l); v != l && v != -l || v < 1 {
+			t.Errorf("VarOf(%d) = %d", l, v)
+		}
+	}
+}

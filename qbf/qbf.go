@@ -65,7 +65,11 @@ func (f *Formula) readPrefix(list []string, universal bool) bool {
 	}
 	for _, word := range list {
 		v, ok := words.Variable(word)
-		if !ok || f.hasVar(v) {
+		if !ok {
+			return false
+		}
+		_, twice := f.Find(v)
+		if twice {
 			return false
 		}
 		f.Vars = append(f.Vars, Var{Number: v, Universal: universal})
@@ -90,7 +94,7 @@ func (f *Formula) readClause(list []string) bool {
 func (f *Formula) withFree() []Var {
 	var all []Var
 	for v := 1; v <= api.MaxVars; v++ {
-		named := f.hasVar(v)
+		_, named := f.Find(v)
 		if !named && f.inClauses(v) {
 			all = append(all, Var{Number: v})
 		}
@@ -99,13 +103,14 @@ func (f *Formula) withFree() []Var {
 	return all
 }
 
-func (f *Formula) hasVar(number int) bool {
+// Find tells the variable with this number, and whether the formula has it.
+func (f *Formula) Find(number int) (Var, bool) {
 	for _, v := range f.Vars {
 		if v.Number == number {
-			return true
+			return v, true
 		}
 	}
-	return false
+	return Var{}, false
 }
 
 func (f *Formula) inClauses(variable int) bool {

@@ -71,3 +71,14 @@ func TestErrorsTellNothingElse(t *testing.T) {
 		}
 	}
 }
+
+func TestFind(t *testing.T) {
+	f, _, _ := Load("a 3 1\ne 2\nc 4 -1\n")
+	for n := -1; n <= 9; n++ {
+		want := n >= 1 && n <= 4
+		v, ok := f.Find(n)
+		if ok != want || ok && v != (Var{n, n%2 == 1}) || !ok && v != (Var{}) {
+			t.Errorf("Find(%d) = %v, %v", n, v, ok)
+		}
+	}
+}
