@@ -5,6 +5,7 @@ import (
 	"duel/api"
 	"duel/proofs"
 	"duel/qbf"
+	"duel/search"
 )
 
 // Formula is a formula as it was read.
@@ -32,25 +33,36 @@ func Load(s string) (*Formula, api.Errno, int) {
 
 // Blocks tells the variables block by block (P4).
 func (f *Formula) Blocks() [][]int {
-	if f == nil {
-		return nil
-	}
-	return f.read.Blocks()
+	read := f.formula()
+	return read.Blocks()
 }
 
 // Check tells what a text proves (P5).
 func (f *Formula) Check(proof string) (int, api.Errno, int) {
-	// A formula that was not loaded is as one without lines.
-	formula := qbf.Formula{}
-	if f != nil {
-		formula = f.read
-	}
-	read, errno, line := proofs.Read(formula, proof)
+	read, errno, line := proofs.Read(f.formula(), proof)
 	return read.Kind, errno, line
 }
 
+// formula tells what was read; a formula that was not loaded is as one without lines.
+func (f *Formula) formula() qbf.Formula {
+	if f == nil {
+		return qbf.Formula{}
+	}
+	return f.read
+}
+
 // Solve finds whether the formula is true (P6).
-func (f *Formula) Solve(budget int, lemmas int) (Verdict, api.Errno) { return Verdict{}, api.OK }
+func (f *Formula) Solve(budget int, lemmas int) (Verdict, api.Errno) {
+	if budget < 0 || budget > api.MaxBudget || lemmas < 0 || lemmas > api.MaxLemmas {
+		return Verdict{}, api.ErrArg
+	}
+	answer := search.Solve(f.formula(), budget, lemmas)
+	verdict := Verdict{Kind: answer.Kind, Nodes: answer.Nodes, Lemmas: answer.Lemmas}
+	if answer.Kind != api.Unknown {
+		verdict.Proof = answer.Proof.Text()
+	}
+	return verdict, api.OK
+}
 
 // Open begins a duel on a proof (P8).
 func (f *Formula) Open(proof string) (*Duel, api.Errno, int) { return nil, api.OK, 0 }

@@ -22,6 +22,16 @@ func (s Set) WithoutVar(variable int) Set {
 	return Set{Pos: s.Pos &^ b, Neg: s.Neg &^ b}
 }
 
+// Without tells the set without the literals of another.
+func (s Set) Without(other Set) Set {
+	return Set{Pos: s.Pos &^ other.Pos, Neg: s.Neg &^ other.Neg}
+}
+
+// Turned tells the literals turned: V for -V, -V for V.
+func (s Set) Turned() Set {
+	return Set{Pos: s.Neg, Neg: s.Pos}
+}
+
 // Union tells the literals of both sets.
 func (s Set) Union(other Set) Set {
 	return Set{Pos: s.Pos | other.Pos, Neg: s.Neg | other.Neg}
@@ -53,6 +63,20 @@ func (s Set) Clashes() bool {
 // Meets tells whether a literal is in both sets.
 func (s Set) Meets(other Set) bool {
 	return s.Pos&other.Pos|s.Neg&other.Neg != 0
+}
+
+// List tells the literals, rising by their variables, V ahead of -V.
+func (s Set) List() []int {
+	var list []int
+	for v := 1; v <= api.MaxVars; v++ {
+		if s.Has(v) {
+			list = append(list, v)
+		}
+		if s.Has(-v) {
+			list = append(list, -v)
+		}
+	}
+	return list
 }
 
 // VarOf tells the variable of a literal.

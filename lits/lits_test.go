@@ -2,6 +2,7 @@ package lits
 
 import (
 	"math"
+	"slices"
 	"testing"
 )
 
@@ -97,6 +98,51 @@ func TestTwoSets(t *testing.T) {
 	}
 	if !(Set{}).Empty() || (Set{}).Clashes() || (Set{}).Meets(Set{}) {
 		t.Errorf("the set without literals")
+	}
+}
+
+func TestWithout(t *testing.T) {
+	for _, l := range all {
+		for _, m := range all {
+			both := Set{}.With(l).With(m)
+			want := Set{}.With(l)
+			if l == m {
+				want = Set{}
+			}
+			if got := both.Without(Set{}.With(m)); got != want {
+				t.Errorf("%d and %d without %d = %v, want %v", l, m, m, got, want)
+			}
+			if got := (Set{}).With(l).Without(Set{}.With(m)); got != want {
+				t.Errorf("%d without %d = %v, want %v", l, m, got, want)
+			}
+		}
+	}
+}
+
+func TestTurned(t *testing.T) {
+	for _, l := range all {
+		for _, m := range all {
+			if got := (Set{}).With(l).With(m).Turned(); got != (Set{}).With(-l).With(-m) {
+				t.Errorf("%d and %d turned are %v", l, m, got)
+			}
+		}
+	}
+}
+
+func TestList(t *testing.T) {
+	for _, want := range [][]int{nil, {1}, {-8}, {1, -1}, {-2, 3, 8, -8}, {1, 2, 3, 4, 5, 6, 7, 8}, {-1, 2, -3, 4, -5, 6, -7, 8}} {
+		s := Set{}
+		for i := len(want) - 1; i >= 0; i-- {
+			s = s.With(want[i])
+		}
+		if got := s.List(); !slices.Equal(got, want) {
+			t.Errorf("List of %v = %v, want %v", s, got, want)
+		}
+	}
+	first := Set{}.With(1).List()
+	first[0] = 7
+	if second := (Set{}).With(1).List(); second[0] != 1 {
+		t.Errorf("what is written into a list comes out again")
 	}
 }
 

@@ -1,205 +1,132 @@
-// Package proofs reads proofs and checks them, step by step.
+// Package proofs has proofs and their steps: it makes and writes them, and reads and checks them.
 package proofs
 
 import (
 	"duel/api"
 	"duel/lits"
 	"duel/qbf"
-	"duel/words"
 )
 
-// Proof is a proof that holds: what it proves, and the literals of its steps in their order. No step has both literals of a variable.
+// Rules tell what a step is.
+const (
+	Axiom     = 1 // a clause of the formula
+	Cube      = 2 // literals that satisfy the formula
+	Resolvent = 3 // of two steps
+	Reduct    = 4 // of a step
+)
+
+// Step is a step with its literals. First is the clause that an axiom is, or the first step that a resolvent or a reduct is made of; a resolvent has a second one, and a variable. Clauses and steps are counted from 1.
+type Step struct {
+	Rule               int
+	First, Second, Var int
+	Lits               lits.Set
+}
+
+// Proof is what is proved, and the steps in their order.
 type Proof struct {
 	Kind  int
-	Steps []lits.Set
+	Steps []Step
 }
 
-// reader is a proof while its lines are read.
-type reader struct {
-	formula qbf.Formula
-	proof   Proof
+// Add lays a step behind the others, and tells its number.
+func (p *Proof) Add(step Step) int {
+	p.Steps = append(p.Steps, step)
+	return len(p.Steps)
 }
 
-// Read tells the proof that a text is, or what is wrong with it and where (P5).
-func Read(f qbf.Formula, text string) (Proof, api.Errno, int) {
-	if len(text) > api.MaxProof {
-		return Proof{}, api.ErrLong, 0
+// Lits tells the literals of the step with this number.
+func (p *Proof) Lits(number int) lits.Set {
+	if number < 1 || number > len(p.Steps) {
+		return lits.Set{}
 	}
-	lines, ended := words.Lines(text)
-	r := reader{formula: f}
-	for i, line := range lines {
-		if !r.readLine(i, line) {
-			return Proof{}, api.ErrProof, i + 1
-		}
-	}
-	if !ended || !r.closed() {
-		return Proof{}, api.ErrProof, len(lines) + 1
-	}
-	return r.proof, api.OK, 0
+	return p.Steps[number-1].Lits
 }
 
-// readLine adds what the line with this index says, and tells whether it is a line.
-func (r *reader) readLine(index int, line string) bool {
-	if index == 0 {
-		return r.readKind(line)
+// Resolve adds the resolvent of two steps, whichever of them has the variable as it is, and tells its number.
+func (p *Proof) Resolve(first int, second int, variable int) int {
+	own := p.Lits(first)
+	if !own.Has(variable) {
+		first, second = second, first
 	}
-	if len(r.proof.Steps) >= api.MaxSteps {
-		return false
-	}
-	list, ok := words.Split(line)
-	if !ok {
-		return false
-	}
-	step, ok := r.readStep(list)
-	if !ok {
-		return false
-	}
-	r.proof.Steps = append(r.proof.Steps, step)
-	return true
+	step := Step{Rule: Resolvent, First: first, Second: second, Var: variable}
+	step.Lits = p.resolvent(step)
+	return p.Add(step)
 }
 
-func (r *reader) readKind(line string) bool {
-	switch line {
-	case "proof false":
-		r.proof.Kind = api.False
-		return true
-	case "proof true":
-		r.proof.Kind = api.True
-		return true
-	}
-	return false
-}
-
-// closed tells whether the last step has no literals.
-func (r *reader) closed() bool {
-	last := len(r.proof.Steps) - 1
-	return last >= 0 && r.proof.Steps[last].Empty()
-}
-
-// readStep tells the literals of the step with these words, and whether it is one.
-func (r *reader) readStep(list []string) (lits.Set, bool) {
-	if len(list) == 0 {
-		return lits.Set{}, false
-	}
-	rest := list[1:]
-	switch list[0] {
-	case "a":
-		return r.readAxiom(rest)
-	case "c":
-		return r.readCube(rest)
-	case "r":
-		return r.readResolvent(rest)
-	case "d":
-		return r.readReduct(rest)
-	}
-	return lits.Set{}, false
-}
-
-func (r *reader) readAxiom(list []string) (lits.Set, bool) {
-	if r.proof.Kind != api.False || len(list) != 1 {
-		return lits.Set{}, false
-	}
-	k, ok := words.Number(list[0], len(r.formula.Clauses))
-	if !ok {
-		return lits.Set{}, false
-	}
-	clause := r.formula.Clauses[k-1]
-	return clause, !clause.Clashes()
-}
-
-func (r *reader) readCube(list []string) (lits.Set, bool) {
-	if r.proof.Kind != api.True {
-		return lits.Set{}, false
-	}
-	cube := lits.Set{}
-	last := 0
-	for _, word := range list {
-		literal, ok := words.Literal(word)
-		if !ok {
-			return lits.Set{}, false
-		}
-		number := lits.VarOf(literal)
-		v, ok := r.formula.Find(number)
-		if !ok || v.Number <= last {
-			return lits.Set{}, false
-		}
-		cube = cube.With(literal)
-		last = v.Number
-	}
-	return cube, r.satisfies(cube)
-}
-
-// satisfies tells whether each clause is satisfied if the literals of the cube are true.
-func (r *reader) satisfies(cube lits.Set) bool {
-	for _, clause := range r.formula.Clauses {
-		met := clause.Meets(cube)
-		if !met && !clause.Clashes() {
-			return false
-		}
-	}
-	return true
-}
-
-func (r *reader) readResolvent(list []string) (lits.Set, bool) {
-	if len(list) != 3 {
-		return lits.Set{}, false
-	}
-	first, firstOK := r.stepAhead(list[0])
-	second, secondOK := r.stepAhead(list[1])
-	v, ok := r.readPivot(list[2])
-	if !firstOK || !secondOK || !ok {
-		return lits.Set{}, false
-	}
-	if !first.Has(v) || !second.Has(-v) {
-		return lits.Set{}, false
-	}
+func (p *Proof) resolvent(step Step) lits.Set {
+	first := p.Lits(step.First)
+	second := p.Lits(step.Second)
 	both := first.Union(second)
-	rest := both.WithoutVar(v)
-	return rest, !rest.Clashes()
+	return both.WithoutVar(step.Var)
 }
 
-func (r *reader) readPivot(word string) (int, bool) {
-	number, ok := words.Variable(word)
-	if !ok {
-		return 0, false
+// Reduce adds the reduct of a step, if that has fewer literals, and tells the number of the step that has them.
+func (p *Proof) Reduce(f qbf.Formula, number int) int {
+	whole := p.Lits(number)
+	rest := p.reduced(f, whole)
+	if rest == whole {
+		return number
 	}
-	v, ok := r.formula.Find(number)
-	return number, ok && r.isPivot(v)
+	return p.Add(Step{Rule: Reduct, First: number, Lits: rest})
 }
 
-func (r *reader) readReduct(list []string) (lits.Set, bool) {
-	if len(list) != 1 {
-		return lits.Set{}, false
-	}
-	step, ok := r.stepAhead(list[0])
-	return r.reduce(step), ok
-}
-
-// stepAhead tells the literals of the step whose number a word writes, and whether there is such a step ahead.
-func (r *reader) stepAhead(word string) (lits.Set, bool) {
-	n, ok := words.Number(word, len(r.proof.Steps))
-	if !ok {
-		return lits.Set{}, false
-	}
-	return r.proof.Steps[n-1], true
-}
-
-// isPivot tells whether the variable is of the kind that steps are resolved on: existential in a proof of false, universal in one of true. The same kind holds literals of the other kind further out from being reduced.
-func (r *reader) isPivot(v qbf.Var) bool {
-	return v.Universal == (r.proof.Kind == api.True)
-}
-
-// reduce tells the literals without those that are reduced: from the innermost variable on outwards, up to the first one in the set that could be a pivot.
-func (r *reader) reduce(set lits.Set) lits.Set {
-	for i := len(r.formula.Vars) - 1; i >= 0; i-- {
-		v := r.formula.Vars[i]
+// reduced tells the literals without those that are reduced: from the innermost variable on outwards, up to the first one in the set that could be a pivot.
+func (p *Proof) reduced(f qbf.Formula, set lits.Set) lits.Set {
+	for i := len(f.Vars) - 1; i >= 0; i-- {
+		v := f.Vars[i]
 		if !set.HasVar(v.Number) {
 			continue
 		}
-		if r.isPivot(v) {
+		if p.isPivot(v) {
 			break
 		}
 		set = set.WithoutVar(v.Number)
 	}
 	return set
+}
+
+// isPivot tells whether the variable is of the kind that steps are resolved on: existential in a proof of false, universal in one of true. The same kind holds literals of the other kind further out from being reduced.
+func (p *Proof) isPivot(v qbf.Var) bool {
+	return v.Universal == (p.Kind == api.True)
+}
+
+// Needed tells the proof that ends with the step of this number: with that step and those that it rests on, and no others.
+func (p *Proof) Needed(last int) Proof {
+	needed := p.needed(last)
+	short := Proof{Kind: p.Kind}
+	// The new numbers of the steps; those of clauses stay as they are.
+	numbers := make([]int, len(p.Steps)+1)
+	for i, step := range p.Steps {
+		if !needed[i+1] {
+			continue
+		}
+		if step.Rule != Axiom && step.First >= 0 && step.First <= i {
+			step.First = numbers[step.First]
+		}
+		if step.Second >= 0 && step.Second <= i {
+			step.Second = numbers[step.Second]
+		}
+		numbers[i+1] = short.Add(step)
+	}
+	return short
+}
+
+// needed tells for each number of a step whether the last one rests on it. Steps rest on steps ahead alone, so that one way through them from behind is enough.
+func (p *Proof) needed(last int) []bool {
+	needed := make([]bool, len(p.Steps)+1)
+	for i := len(p.Steps); i > 0; i-- {
+		if i == last {
+			needed[i] = true
+		}
+		step := p.Steps[i-1]
+		if !needed[i] || step.Rule == Axiom {
+			continue
+		}
+		for _, ahead := range [2]int{step.First, step.Second} {
+			if ahead > 0 && ahead < i {
+				needed[ahead] = true
+			}
+		}
+	}
+	return needed
 }

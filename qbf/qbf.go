@@ -113,6 +113,17 @@ func (f *Formula) Find(number int) (Var, bool) {
 	return Var{}, false
 }
 
+// Satisfied tells whether each clause is satisfied if these literals are true, whatever the other variables are.
+func (f *Formula) Satisfied(literals lits.Set) bool {
+	for _, clause := range f.Clauses {
+		met := clause.Meets(literals)
+		if !met && !clause.Clashes() {
+			return false
+		}
+	}
+	return true
+}
+
 func (f *Formula) inClauses(variable int) bool {
 	for _, clause := range f.Clauses {
 		if clause.HasVar(variable) {

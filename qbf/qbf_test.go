@@ -82,3 +82,30 @@ func TestFind(t *testing.T) {
 		}
 	}
 }
+
+func TestSatisfied(t *testing.T) {
+	for _, c := range []struct {
+		text     string
+		literals lits.Set
+		want     bool
+	}{
+		{"", set(), true},
+		{"a 1\n", set(), true},
+		{"c\n", set(), false},
+		{"c\n", set(1, -1), false},
+		{"c 1 -1\n", set(), true},
+		{"c 1 -1\nc 2\n", set(), false},
+		{"c 1 -1\nc 2\n", set(2), true},
+		{"c 1 2\nc -1 -2\n", set(1, -2), true},
+		{"c 1 2\nc -1 -2\n", set(1, 2), false},
+		{"c 1 2\nc -1 -2\n", set(1), false},
+		{"c 1 2\nc -1 2\n", set(2), true},
+		{"c 1\nc 2\nc -3\n", set(1, 2), false},
+		{"c 1\nc 2\nc -3\n", set(1, 2, -3), true},
+	} {
+		f, _, _ := Load(c.text)
+		if got := f.Satisfied(c.literals); got != c.want {
+			t.Errorf("of %q: Satisfied(%v) = %t", c.text, c.literals, got)
+		}
+	}
+}
