@@ -8,7 +8,7 @@ import (
 	"duel/duel"
 )
 
-// wantCheck tests P1 and P2 too: an error comes with nothing but the line, and asking again answers the same.
+// wantCheck tests P1 and P2 too: an error comes with nothing but the line, and asking again answers the same; and of P8 that the errors of Open are the same.
 func wantCheck(t *testing.T, formula, proof string, kind int, errno api.Errno, line int) {
 	t.Helper()
 	f := wantLoad(t, formula, api.OK, 0)
@@ -20,6 +20,9 @@ func wantCheck(t *testing.T, formula, proof string, kind int, errno api.Errno, l
 		if k != kind || e != errno || l != line {
 			t.Errorf("of %.60q: Check(%.120q), call %d, = %d, %d, line %d, want %d, %d, line %d", formula, proof, i+1, k, e, l, kind, errno, line)
 		}
+	}
+	if d, e, l := f.Open(proof); (d != nil) != (errno == api.OK) || e != errno || l != line {
+		t.Errorf("of %.60q: Open(%.120q) = %v, %d, line %d, want %d, line %d", formula, proof, d, e, l, errno, line)
 	}
 }
 
@@ -69,6 +72,7 @@ func TestCheckTakes(t *testing.T) {
 		{"c 8 7 / c -8 / c -7", "proof false / a 1 / a 2 / r 1 2 8 / a 3 / r 3 4 7", api.False},
 	} {
 		wantCheck(t, lines(c.formula), lines(c.proof), c.kind, api.OK, 0)
+		newGame(t, lines(c.formula)).wantWon(t, lines(c.proof), c.kind)
 	}
 }
 

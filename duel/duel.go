@@ -3,6 +3,7 @@ package duel
 
 import (
 	"duel/api"
+	"duel/play"
 	"duel/proofs"
 	"duel/qbf"
 	"duel/search"
@@ -20,7 +21,9 @@ type Verdict struct {
 }
 
 // Duel is a proof that is played.
-type Duel struct{}
+type Duel struct {
+	game play.Game
+}
 
 // Load reads a formula (P3).
 func Load(s string) (*Formula, api.Errno, int) {
@@ -65,13 +68,35 @@ func (f *Formula) Solve(budget int, lemmas int) (Verdict, api.Errno) {
 }
 
 // Open begins a duel on a proof (P8).
-func (f *Formula) Open(proof string) (*Duel, api.Errno, int) { return nil, api.OK, 0 }
+func (f *Formula) Open(proof string) (*Duel, api.Errno, int) {
+	formula := f.formula()
+	read, errno, line := proofs.Read(formula, proof)
+	if errno != api.OK {
+		return nil, errno, line
+	}
+	return &Duel{game: play.Open(formula, read)}, api.OK, 0
+}
 
-// Turn tells the block in turn (P8).
-func (d *Duel) Turn() int { return 0 }
+// Turn tells the block in turn (P8). A duel that was not opened is as one without blocks.
+func (d *Duel) Turn() int {
+	if d == nil {
+		return 0
+	}
+	return d.game.Turn()
+}
 
 // Move plays the block in turn (P9).
-func (d *Duel) Move(bits int) api.Errno { return api.OK }
+func (d *Duel) Move(bits int) api.Errno {
+	if d == nil {
+		return api.ErrOver
+	}
+	return d.game.Move(bits)
+}
 
 // Values tells the variables' values (P8).
-func (d *Duel) Values() []int { return nil }
+func (d *Duel) Values() []int {
+	if d == nil {
+		return make([]int, api.MaxVars)
+	}
+	return d.game.Values()
+}

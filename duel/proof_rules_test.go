@@ -45,19 +45,24 @@ func literals(list []string) map[int]bool {
 	return set
 }
 
+// satisfied tells whether the existential side has won.
+func (g *game) satisfied(values map[int]bool) bool {
+	for _, clause := range g.clauses {
+		satisfied := false
+		for l := range clause {
+			satisfied = satisfied || values[l] || l < 0 && !values[-l]
+		}
+		if !satisfied {
+			return false
+		}
+	}
+	return true
+}
+
 // truth plays the game to its end both ways at each variable.
 func (g *game) truth(values map[int]bool, depth int) bool {
 	if depth == len(g.prefix) {
-		for _, clause := range g.clauses {
-			satisfied := false
-			for l := range clause {
-				satisfied = satisfied || values[l] || l < 0 && !values[-l]
-			}
-			if !satisfied {
-				return false
-			}
-		}
-		return true
+		return g.satisfied(values)
 	}
 	v := int(g.prefix[depth][1] - '0')
 	values[v] = false
@@ -212,7 +217,7 @@ func (g *game) check(proof string) (int, int) {
 	return api.False, 0
 }
 
-// wantSame holds Check against the second reading, and what is proved against the game.
+// wantSame holds Check against the second reading, and what is proved against the game, of which all duels are played.
 func (g *game) wantSame(t *testing.T, proof string) int {
 	t.Helper()
 	kind, line := g.check(proof)
@@ -223,6 +228,9 @@ func (g *game) wantSame(t *testing.T, proof string) int {
 	wantCheck(t, g.text, proof, kind, errno, line)
 	if kind != 0 && g.truth(map[int]bool{}, 0) != (kind == api.True) {
 		t.Errorf("of %q: %q proves %d, and it is not so", g.text, proof, kind)
+	}
+	if kind != 0 {
+		g.wantWon(t, proof, kind)
 	}
 	return kind
 }

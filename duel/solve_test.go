@@ -46,12 +46,14 @@ func (g *game) kind() int {
 	return api.False
 }
 
-// solved is solve without a budget, which is never Unknown.
+// solved is solve without a budget, which is never Unknown; all duels on its proof are played.
 func (g *game) solved(t *testing.T, lemmas int) duel.Verdict {
 	t.Helper()
 	v := g.solve(t, 0, lemmas)
 	if want := g.kind(); v.Kind != want {
 		t.Errorf("of %q: Solve(0, %d) = %+v, want kind %d", g.text, lemmas, v, want)
+	} else if !t.Failed() {
+		g.wantWon(t, v.Proof, v.Kind)
 	}
 	return v
 }
